@@ -82,6 +82,7 @@ func TestNumbers(t *testing.T) {
 		{"MaxLine", api.MaxLine, 4096},
 		{"MaxNumber", api.MaxNumber, 999999999999999999},
 		{"MaxInodes", api.MaxInodes, 4096},
+		{"MaxPlan", api.MaxPlan, 1000},
 		{"Read", api.Read, 1},
 		{"Write", api.Write, 2},
 		{"Append", api.Append, 4},
